@@ -179,6 +179,20 @@ func smoothIn(depths int, places int, most int) []string {
 	return keys
 }
 
+// countedSmooth counts the smooth keys from a place on, one by one: no key is written down, so that there may be millions.
+func countedSmooth(p impl.Pins, place int, before int, most int) int {
+	if place == len(p.Cuts) {
+		return 1
+	}
+	count := 0
+	for _, depth := range p.Cuts[place] {
+		if place == 0 || depth-before <= most && before-depth <= most {
+			count += countedSmooth(p, place+1, depth, most)
+		}
+	}
+	return count
+}
+
 func smoothAmong(keys []string, most int) int {
 	count := 0
 	for _, key := range keys {

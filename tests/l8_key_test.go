@@ -363,14 +363,30 @@ func sameSmooth(t *testing.T, depths int, places int, most int, many int) {
 
 func TestPromise8SmoothKeysInOrder(t *testing.T) {
 	for depths := 1; depths <= mostDepths; depths++ {
-		for places := 1; places <= 4; places++ {
+		for places := 1; places <= 5; places++ {
 			for most := range mostDepths + 1 {
 				sameSmooth(t, depths, places, most, 800)
 			}
 		}
-		for places := 5; places <= mostPins; places++ {
+		for places := 6; places <= mostPins; places++ {
 			for most := range 3 {
 				sameSmooth(t, depths, places, most, 200)
+			}
+		}
+	}
+}
+
+func TestPromise8SmoothKeysCounted(t *testing.T) {
+	d := &drawn{last: 33}
+	for depths := 1; depths <= mostDepths; depths++ {
+		for places := 1; places <= mostPins; places++ {
+			whole := wholeIn(depths, places)
+			for most := range mostDepths + 1 {
+				n, ok := impl.CountSmooth(depths, places, most)
+				same(t, fmt.Sprint("CountSmooth ", depths, places, most), n, ok, countedSmooth(whole, 0, 0, most))
+				p := d.pins(depths, places, 2)
+				n, ok = impl.SmoothKeys(p, most)
+				same(t, fmt.Sprint("SmoothKeys ", p, most), n, ok, countedSmooth(p, 0, 0, most))
 			}
 		}
 	}
